@@ -3,6 +3,8 @@ package streams
 
 import (
 	"streams/api"
+	"streams/plan"
+	"streams/source"
 	"streams/word"
 )
 
@@ -82,25 +84,50 @@ func tell(w word.Word) (string, api.Errno) {
 }
 
 // Program is a text that was compiled.
-type Program struct{}
+type Program struct {
+	steps []plan.Step
+}
 
 // Compile compiles a text (P6 to P9).
-func Compile(text string) (*Program, api.Fault) { return nil, api.Fault{} }
+func Compile(text string) (*Program, api.Fault) {
+	lines, fault := source.Read(text)
+	if fault.E != api.OK {
+		return nil, fault
+	}
+	steps, fault := plan.Make(lines)
+	if fault.E != api.OK {
+		return nil, fault
+	}
+	return &Program{steps: steps}, api.Fault{}
+}
 
 // Ins tells the inputs' names (P10).
-func (p *Program) Ins() []string { return nil }
+func (p *Program) Ins() []string { return plan.Names(p.steps, source.In) }
 
 // Outs tells the outputs' names (P10).
-func (p *Program) Outs() []string { return nil }
+func (p *Program) Outs() []string { return plan.Names(p.steps, source.Out) }
 
 // Buffers tells the buffers' names (P10).
-func (p *Program) Buffers() []string { return nil }
+func (p *Program) Buffers() []string { return plan.Names(p.steps, source.Buffer) }
 
 // Clock tells the clock of a name (P10).
-func (p *Program) Clock(name string) (string, api.Errno) { return "", api.OK }
+func (p *Program) Clock(name string) (string, api.Errno) {
+	place := plan.Find(p.steps, name)
+	if place < 0 {
+		return "", api.ErrUnknown
+	}
+	return p.steps[place].Clock.Text(), api.OK
+}
 
 // Size tells the size of a buffer (P10).
-func (p *Program) Size(name string) (int, api.Errno) { return 0, api.OK }
+func (p *Program) Size(name string) (int, api.Errno) {
+	place := plan.Find(p.steps, name)
+	size, ok := plan.Size(p.steps, place)
+	if !ok {
+		return 0, api.ErrUnknown
+	}
+	return size, api.OK
+}
 
 // Run runs the program (P11 to P13).
 func (p *Program) Run(ins [][]int, ticks int, sizes []int) (api.Result, api.Errno) {

@@ -51,6 +51,11 @@ func isPart(text string) bool {
 	return true
 }
 
+// None tells whether this is the zero Word.
+func (w Word) None() bool {
+	return w.round == ""
+}
+
 // Text writes the word, however long it is.
 func (w Word) Text() string {
 	return w.lead + "(" + w.round + ")"
@@ -62,7 +67,7 @@ func (w Word) Long() bool {
 }
 
 func (w Word) bit(n int) bool {
-	if n < 0 || w.round == "" {
+	if n < 0 || w.None() {
 		return false
 	}
 	if n < len(w.lead) {
