@@ -3,6 +3,7 @@ package streams_test
 import (
 	"regexp"
 	"slices"
+	"strconv"
 	"strings"
 
 	"streams/api"
@@ -14,11 +15,12 @@ import (
 const farBits = 9000
 
 type modelLine struct {
-	at   int
-	op   string
-	own  string
-	uses []string
-	word string
+	at     int
+	op     string
+	own    string
+	uses   []string
+	word   string
+	number int
 }
 
 // told is all that Compile, and then the program, tell.
@@ -67,6 +69,8 @@ func modelParse(pieces []string) (modelLine, bool) {
 			l.word = piece
 		case piece[0] >= 'a':
 			l.uses = append(l.uses, piece)
+		default:
+			l.number, _ = strconv.Atoi(piece)
 		}
 	}
 	names := append([]string{l.own}, l.uses...)

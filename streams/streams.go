@@ -4,6 +4,7 @@ package streams
 import (
 	"streams/api"
 	"streams/plan"
+	"streams/run"
 	"streams/source"
 	"streams/word"
 )
@@ -131,5 +132,5 @@ func (p *Program) Size(name string) (int, api.Errno) {
 
 // Run runs the program (P11 to P13).
 func (p *Program) Run(ins [][]int, ticks int, sizes []int) (api.Result, api.Errno) {
-	return api.Result{}, api.OK
+	return run.Run(p.steps, ins, ticks, sizes)
 }

@@ -32,10 +32,10 @@ func gaps(a Word, b Word) (int, int) {
 	total := bothLead(a, b) + bothRound(a, b)
 	least, most, gap := 0, 0, 0
 	for n := 0; n < total; n++ {
-		if a.bit(n) {
+		if a.Bit(n) {
 			gap++
 		}
-		if b.bit(n) {
+		if b.Bit(n) {
 			gap--
 		}
 		if gap < least {

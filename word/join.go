@@ -5,7 +5,7 @@ func Not(a Word) Word {
 	total := len(a.lead) + len(a.round)
 	bits := []byte{}
 	for n := 0; n < total; n++ {
-		bits = append(bits, digit(!a.bit(n)))
+		bits = append(bits, digit(!a.Bit(n)))
 	}
 	return normal(bits, len(a.lead))
 }
@@ -16,7 +16,7 @@ func Either(a Word, b Word) Word {
 	total := lead + bothRound(a, b)
 	bits := []byte{}
 	for n := 0; n < total; n++ {
-		bits = append(bits, digit(a.bit(n) || b.bit(n)))
+		bits = append(bits, digit(a.Bit(n) || b.Bit(n)))
 	}
 	return normal(bits, lead)
 }
@@ -28,8 +28,8 @@ func On(a Word, b Word) Word {
 	bits := []byte{}
 	next := 0
 	for n := 0; n < total; n++ {
-		one := a.bit(n)
-		bits = append(bits, digit(one && b.bit(next)))
+		one := a.Bit(n)
+		bits = append(bits, digit(one && b.Bit(next)))
 		if one {
 			next++
 		}

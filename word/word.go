@@ -66,7 +66,8 @@ func (w Word) Long() bool {
 	return len(w.lead) > api.MaxLead || len(w.round) > api.MaxRound
 }
 
-func (w Word) bit(n int) bool {
+// Bit tells whether bit n is a 1; the zero Word has none.
+func (w Word) Bit(n int) bool {
 	if n < 0 || w.None() {
 		return false
 	}

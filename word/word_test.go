@@ -32,10 +32,10 @@ func TestWordsLongerThanTexts(t *testing.T) {
 		not := Not(made(u, v))
 		next := 0
 		for n := range far {
-			if or.bit(n) != (a[n] == '1' || b[n] == '1') || not.bit(n) == (a[n] == '1') {
+			if or.Bit(n) != (a[n] == '1' || b[n] == '1') || not.Bit(n) == (a[n] == '1') {
 				t.Fatalf("either or not of %s(%s) and %s(%s): bit %d", u, v, x, y, n)
 			}
-			if on.bit(n) != (a[n] == '1' && b[next] == '1') {
+			if on.Bit(n) != (a[n] == '1' && b[next] == '1') {
 				t.Fatalf("%s(%s) on %s(%s): bit %d", u, v, x, y, n)
 			}
 			if a[n] == '1' {
@@ -94,7 +94,7 @@ func TestZeroWord(t *testing.T) {
 		Ahead(c[0], c[1])
 		Size(c[0], c[1])
 	}
-	if got := On(Word{}, Word{}); got != (Word{}) || got.bit(0) {
+	if got := On(Word{}, Word{}); got != (Word{}) || got.Bit(0) {
 		t.Errorf("none on none is %s", got.Text())
 	}
 }
